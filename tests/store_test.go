@@ -54,11 +54,7 @@ func walk() [][]impl.Slot {
 	var out [][]impl.Slot
 	pieces := allPieces()[1:]
 	s := impl.StoreNew()
-	state := uint32(1)
-	next := func(n int) int {
-		state = state*1664525 + 1013904223
-		return int(state>>8) % n
-	}
+	next := numbers(1)
 	for range 300 {
 		i := next(len(s))
 		text := pieces[next(len(pieces))]

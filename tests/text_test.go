@@ -44,6 +44,14 @@ func noPieces() []string {
 	}
 }
 
+// numbers gives a fixed sequence of numbers, each below the n that is asked for.
+func numbers(state uint32) func(n int) int {
+	return func(n int) int {
+		state = state*1664525 + 1013904223
+		return int(state>>8) % n
+	}
+}
+
 func TestLimitsOfPieces(t *testing.T) {
 	if impl.TextMax != 4 || impl.SlotMax != 8 {
 		t.Error(impl.TextMax, impl.SlotMax)

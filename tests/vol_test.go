@@ -59,14 +59,13 @@ func blockLists() [][]int {
 		out = append(out, longer...)
 		lists = longer
 	}
-	state := uint32(7)
+	next := numbers(7)
 	for size := 4; size <= impl.BlockMax; size++ {
 		out = append(out, make([]int, size), slices.Repeat([]int{impl.SlotMax}, size), slices.Repeat([]int{1}, size))
 		for range 100 {
 			list := make([]int, size)
 			for i := range list {
-				state = state*1664525 + 1013904223
-				list[i] = int(state>>8) % (impl.SlotMax + 1)
+				list[i] = next(impl.SlotMax + 1)
 			}
 			out = append(out, list)
 		}
