@@ -79,7 +79,7 @@ func TestWorldCalmOfNoRounds(t *testing.T) {
 	}
 }
 
-// P77: after one quiet round both nodes run, Both is true, and both have the same operations, all acknowledged: those of the leader.
+// P71, P77: after one quiet round both nodes run, Both is true, and both have the same operations, all acknowledged: those of the leader.
 func TestComesToIt(t *testing.T) {
 	eachWorld(3, func(w impl.World) {
 		out := checkCalm(t, "a run", w, 1)
